@@ -1,0 +1,1 @@
+"""Notes round a circle: the calls are in circlenotes.desk."""
