@@ -29,6 +29,22 @@ def form(n, mirror, a):
     return [turns.count(turns[0])] + min(candidates, key=set_number)
 
 
+def rub(n, a, w):
+    """0; then the sum, over each place of a and each other one, of w of how far on the other is."""
+    if not is_circle(n):
+        return [NOT_IN_RANGE]
+    if not lies_on(n, a):
+        return [NOT_SUCH_A_SET]
+    return [0, weighed(gap_counts(n, a), w)]
+
+
+def even(n, k, m):
+    """0; then k places spread as evenly over the circle as can be, shifted by m."""
+    if not is_circle(n) or not 1 <= k <= n or m >= n:
+        return [NOT_IN_RANGE]
+    return [0] + [(n * j + m) // k % n for j in range(k)]
+
+
 def is_circle(n):
     return 1 <= n <= MOST_PLACES
 
@@ -45,6 +61,11 @@ def gap_counts(n, places):
 
 def gap_count(places, marks, d):
     return sum([marks[(place + d) % len(marks)] for place in places])
+
+
+def weighed(counts, weights):
+    # Only a place and itself are 0 apart, so what stands first is left out; where weights end, the rest weighs 0.
+    return sum([count * weight for count, weight in zip(counts[1:], weights[1:])])
 
 
 def marks_of(n, places):

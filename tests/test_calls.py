@@ -7,14 +7,16 @@ import pathlib
 import unittest
 
 import circlenotes
-from circlenotes.desk import form, gaps
+from circlenotes.desk import even, form, gaps, rub
 
 PACKAGE = pathlib.Path(circlenotes.__file__).parent
 
 SETS = ([], [0], [11], [0, 4, 7], [2, 5, 8, 11], [1, 3, 4, 9, 10], list(range(12)), [0, 12], [127])
 
-# Each row: the function, and its arguments ahead of the set.
-CALLS = (
+WEIGHTS = ([], [5], [9, -1, 2, -3, 4], list(range(-64, 64)), [-2147483648, 2147483647] * 64)
+
+# Each row: a function with a set behind its numbers, and the numbers.
+SET_CALLS = (
     (gaps, (12,)),
     (gaps, (128,)),
     (gaps, (0,)),
@@ -25,7 +27,14 @@ CALLS = (
     (form, (129, 0)),
 )
 
-CASES = [(function, numbers, places) for function, numbers in CALLS for places in SETS]
+EVEN_NUMBERS = ((12, 7, 5), (12, 1, 11), (1, 1, 0), (128, 128, 127), (0, 1, 0), (12, 0, 0), (12, 13, 0), (12, 7, 12))
+
+# Each row: a function and its arguments.
+CASES = (
+    [(function, numbers + (places,)) for function, numbers in SET_CALLS for places in SETS]
+    + [(rub, (n, places, weights)) for n in (12, 128, 0) for places in SETS for weights in WEIGHTS]
+    + [(even, numbers) for numbers in EVEN_NUMBERS]
+)
 
 
 def refuse(self, *args, **kwargs):
@@ -37,57 +46,62 @@ class Unchangeable(list):
     __setitem__ = __delitem__ = __iadd__ = __imul__ = refuse
 
 
+def handed_in(arguments, as_list=list):
+    return [as_list(value) if isinstance(value, list) else value for value in arguments]
+
+
 class EveryCall(unittest.TestCase):
     def test_what_is_handed_in_is_as_it_was(self):
-        for function, numbers, places in CASES:
-            handed = list(places)
-            function(*numbers, handed)
-            self.assertEqual(handed, places, (function, numbers))
+        for function, arguments in CASES:
+            handed = handed_in(arguments)
+            function(*handed)
+            self.assertEqual(handed, list(arguments), function)
 
     def test_what_is_handed_in_is_not_changed_for_a_while_either(self):
-        for function, numbers, places in CASES:
-            answer = function(*numbers, Unchangeable(places))
-            self.assertEqual(answer, function(*numbers, list(places)), (function, numbers, places))
+        for function, arguments in CASES:
+            answer = function(*handed_in(arguments, Unchangeable))
+            self.assertEqual(answer, function(*handed_in(arguments)), (function, arguments))
 
     def test_answer_is_a_list_of_whole_numbers(self):
-        for function, numbers, places in CASES:
-            answer = function(*numbers, list(places))
-            self.assertIs(type(answer), list, (function, numbers, places))
-            self.assertEqual({type(number) for number in answer}, {int}, (function, numbers, places))
+        for function, arguments in CASES:
+            answer = function(*handed_in(arguments))
+            self.assertIs(type(answer), list, (function, arguments))
+            self.assertEqual({type(number) for number in answer}, {int}, (function, arguments))
 
     def test_a_refusal_is_its_number_alone(self):
-        refusals = []
-        for function, numbers, places in CASES:
-            answer = function(*numbers, list(places))
-            if answer[0] < 0:
-                refusals.append(answer)
-        self.assertEqual(sorted(set(map(tuple, refusals))), [(-3,), (-2,)])
+        answers = [(function, function(*handed_in(arguments))) for function, arguments in CASES]
+        refusals = {(function, tuple(answer)) for function, answer in answers if answer[0] < 0}
+        expected = {(function, (-2,)) for function in (gaps, form, rub, even)}
+        expected |= {(function, (-3,)) for function in (gaps, form, rub)}
+        self.assertEqual(refusals, expected)
 
     def test_second_call_answers_the_same(self):
-        for function, numbers, places in CASES:
-            handed = list(places)
-            first = function(*numbers, handed)
+        for function, arguments in CASES:
+            handed = handed_in(arguments)
+            first = function(*handed)
             kept = list(first)
-            # A changed answer must reach neither the set nor a later answer.
+            # A changed answer must reach neither what was handed in nor a later answer.
             first.append(99)
             first[0] = 77
-            self.assertEqual(handed, places, (function, numbers))
-            self.assertEqual(function(*numbers, handed), kept, (function, numbers, places))
+            self.assertEqual(handed, list(arguments), function)
+            self.assertEqual(function(*handed), kept, (function, arguments))
 
     def test_calls_between_change_nothing(self):
-        first = [function(*numbers, list(places)) for function, numbers, places in CASES]
-        second = [function(*numbers, list(places)) for function, numbers, places in reversed(CASES)]
+        first = [function(*handed_in(arguments)) for function, arguments in CASES]
+        second = [function(*handed_in(arguments)) for function, arguments in reversed(CASES)]
         self.assertEqual(first, second[::-1])
 
     def test_arguments_bear_the_names_told(self):
         self.assertEqual(gaps(n=3, a=[0]), [1, 1, 0, 0])
         self.assertEqual(form(n=3, mirror=0, a=[1]), [1, 0])
+        self.assertEqual(rub(n=3, a=[0, 1], w=[0, 5]), [0, 5])
+        self.assertEqual(even(n=3, k=2, m=1), [0, 0, 2])
 
     def test_nothing_is_printed(self):
         out, err = io.StringIO(), io.StringIO()
         with contextlib.redirect_stdout(out), contextlib.redirect_stderr(err):
-            for function, numbers, places in CASES:
-                function(*numbers, list(places))
+            for function, arguments in CASES:
+                function(*handed_in(arguments))
         self.assertEqual(out.getvalue() + err.getvalue(), "")
 
 
