@@ -45,6 +45,30 @@ def even(n, k, m):
     return [0] + [(n * j + m) // k % n for j in range(k)]
 
 
+def spread(n, a):
+    """1 if the places of a are spread as evenly over the circle as can be, else 0."""
+    if not is_circle(n):
+        return [NOT_IN_RANGE]
+    if len(a) == 0 or not lies_on(n, a):
+        return [NOT_SUCH_A_SET]
+    if all([is_level(n, a, i) for i in range(1, len(a))]):
+        return [1]
+    return [0]
+
+
+def alike(n, a, b):
+    """2 if b is a, turned, or mirrored and turned; else 1 if both have the same gaps; else 0."""
+    if not is_circle(n):
+        return [NOT_IN_RANGE]
+    if not lies_on(n, a) or not lies_on(n, b):
+        return [NOT_SUCH_A_SET]
+    if b in all_turned(n, a) or b in all_turned(n, mirrored(n, a)):
+        return [2]
+    if gap_counts(n, a) == gap_counts(n, b):
+        return [1]
+    return [0]
+
+
 def is_circle(n):
     return 1 <= n <= MOST_PLACES
 
@@ -66,6 +90,20 @@ def gap_count(places, marks, d):
 def weighed(counts, weights):
     # Only a place and itself are 0 apart, so what stands first is left out; where weights end, the rest weighs 0.
     return sum([count * weight for count, weight in zip(counts[1:], weights[1:])])
+
+
+def is_level(n, places, i):
+    """Whether the i-th behind each place is n i / how many further on, rounded down or up."""
+    size = len(places)
+    rounded_down = n * i // size
+    rounded_up = (n * i + size - 1) // size
+    return all([span in (rounded_down, rounded_up) for span in spans(n, places, i)])
+
+
+def spans(n, places, i):
+    """How far on from each place the i-th of the places behind it is."""
+    behind = places[i:] + places[:i]
+    return [(end - start) % n for start, end in zip(places, behind)]
 
 
 def marks_of(n, places):

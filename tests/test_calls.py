@@ -7,11 +7,23 @@ import pathlib
 import unittest
 
 import circlenotes
-from circlenotes.desk import even, form, gaps, rub
+from circlenotes.desk import alike, even, form, gaps, rub, spread
 
 PACKAGE = pathlib.Path(circlenotes.__file__).parent
 
-SETS = ([], [0], [11], [0, 4, 7], [2, 5, 8, 11], [1, 3, 4, 9, 10], list(range(12)), [0, 12], [127])
+SETS = (
+    [],
+    [0],
+    [11],
+    [0, 4, 7],
+    [2, 5, 8, 11],
+    [0, 1, 4, 6],
+    [0, 1, 3, 7],
+    [1, 3, 4, 9, 10],
+    list(range(12)),
+    [0, 12],
+    [127],
+)
 
 WEIGHTS = ([], [5], [9, -1, 2, -3, 4], list(range(-64, 64)), [-2147483648, 2147483647] * 64)
 
@@ -25,6 +37,9 @@ SET_CALLS = (
     (form, (128, 1)),
     (form, (12, 2)),
     (form, (129, 0)),
+    (spread, (12,)),
+    (spread, (128,)),
+    (spread, (0,)),
 )
 
 EVEN_NUMBERS = ((12, 7, 5), (12, 1, 11), (1, 1, 0), (128, 128, 127), (0, 1, 0), (12, 0, 0), (12, 13, 0), (12, 7, 12))
@@ -34,6 +49,7 @@ CASES = (
     [(function, numbers + (places,)) for function, numbers in SET_CALLS for places in SETS]
     + [(rub, (n, places, weights)) for n in (12, 128, 0) for places in SETS for weights in WEIGHTS]
     + [(even, numbers) for numbers in EVEN_NUMBERS]
+    + [(alike, (n, places, others)) for n in (12, 128, 0) for places in SETS for others in SETS]
 )
 
 
@@ -68,11 +84,18 @@ class EveryCall(unittest.TestCase):
             self.assertIs(type(answer), list, (function, arguments))
             self.assertEqual({type(number) for number in answer}, {int}, (function, arguments))
 
+    def test_spread_and_alike_answer_one_number(self):
+        answers = {(function, tuple(function(*handed_in(arguments)))) for function, arguments in CASES}
+        found = {(function, answer) for function, answer in answers if function in (spread, alike)}
+        expected = {(spread, (number,)) for number in (-3, -2, 0, 1)}
+        expected |= {(alike, (number,)) for number in (-3, -2, 0, 1, 2)}
+        self.assertEqual(found, expected)
+
     def test_a_refusal_is_its_number_alone(self):
         answers = [(function, function(*handed_in(arguments))) for function, arguments in CASES]
         refusals = {(function, tuple(answer)) for function, answer in answers if answer[0] < 0}
-        expected = {(function, (-2,)) for function in (gaps, form, rub, even)}
-        expected |= {(function, (-3,)) for function in (gaps, form, rub)}
+        expected = {(function, (-2,)) for function in (gaps, form, rub, even, spread, alike)}
+        expected |= {(function, (-3,)) for function in (gaps, form, rub, spread, alike)}
         self.assertEqual(refusals, expected)
 
     def test_second_call_answers_the_same(self):
@@ -96,6 +119,8 @@ class EveryCall(unittest.TestCase):
         self.assertEqual(form(n=3, mirror=0, a=[1]), [1, 0])
         self.assertEqual(rub(n=3, a=[0, 1], w=[0, 5]), [0, 5])
         self.assertEqual(even(n=3, k=2, m=1), [0, 0, 2])
+        self.assertEqual(spread(n=4, a=[0, 2]), [1])
+        self.assertEqual(alike(n=3, a=[0, 1], b=[1, 2]), [2])
 
     def test_nothing_is_printed(self):
         out, err = io.StringIO(), io.StringIO()
