@@ -1,6 +1,7 @@
 """The calls: each takes whole numbers and lists of them, and answers a list of whole numbers."""
 
 MOST_PLACES = 128
+MOST_PLACES_OF_CLASSES = 64
 
 NOT_IN_RANGE = -2
 NOT_SUCH_A_SET = -3
@@ -69,6 +70,14 @@ def alike(n, a, b):
     return [0]
 
 
+def classes(n, k):
+    """0; then how many sets of k places there are but for turning."""
+    if not 1 <= n <= MOST_PLACES_OF_CLASSES or not 0 <= k <= n:
+        return [NOT_IN_RANGE]
+    # Burnside: counted turn by turn, the sets that stay as they are come to n for each class.
+    return [0, sum([staying(n, k, r) for r in range(n)]) // n]
+
+
 def is_circle(n):
     return 1 <= n <= MOST_PLACES
 
@@ -104,6 +113,36 @@ def spans(n, places, i):
     """How far on from each place the i-th of the places behind it is."""
     behind = places[i:] + places[:i]
     return [(end - start) % n for start, end in zip(places, behind)]
+
+
+def staying(n, k, r):
+    """How many sets of k places there are that turned by r are as they were."""
+    # Going r further again and again leads round a ring of places; a set that stays is made of whole rings.
+    rings = common_divisor(n, r)
+    ring_size = n // rings
+    if k % ring_size != 0:
+        return 0
+    return choices(rings, k // ring_size)
+
+
+def common_divisor(a, b):
+    """The greatest number that divides both."""
+    divisor = a
+    rest = b
+    while rest > 0:
+        smaller = divisor % rest
+        divisor = rest
+        rest = smaller
+    return divisor
+
+
+def choices(size, k):
+    """How many ways there are to take k out of size things."""
+    ways = 1
+    for taken in range(k):
+        # Multiplied first: what then stands there is divided without a rest.
+        ways = ways * (size - taken) // (taken + 1)
+    return ways
 
 
 def marks_of(n, places):

@@ -7,7 +7,7 @@ import pathlib
 import unittest
 
 import circlenotes
-from circlenotes.desk import alike, even, form, gaps, rub, spread
+from circlenotes.desk import alike, classes, even, form, gaps, rub, spread
 
 PACKAGE = pathlib.Path(circlenotes.__file__).parent
 
@@ -44,12 +44,15 @@ SET_CALLS = (
 
 EVEN_NUMBERS = ((12, 7, 5), (12, 1, 11), (1, 1, 0), (128, 128, 127), (0, 1, 0), (12, 0, 0), (12, 13, 0), (12, 7, 12))
 
+CLASSES_NUMBERS = ((10, 5), (10, 0), (1, 0), (1, 1), (9, 9), (0, 0), (10, 11), (64, 65), (65, 5), (65, 65))
+
 # Each row: a function and its arguments.
 CASES = (
     [(function, numbers + (places,)) for function, numbers in SET_CALLS for places in SETS]
     + [(rub, (n, places, weights)) for n in (12, 128, 0) for places in SETS for weights in WEIGHTS]
     + [(even, numbers) for numbers in EVEN_NUMBERS]
     + [(alike, (n, places, others)) for n in (12, 128, 0) for places in SETS for others in SETS]
+    + [(classes, numbers) for numbers in CLASSES_NUMBERS]
 )
 
 
@@ -91,10 +94,14 @@ class EveryCall(unittest.TestCase):
         expected |= {(alike, (number,)) for number in (-3, -2, 0, 1, 2)}
         self.assertEqual(found, expected)
 
+    def test_rub_and_classes_answer_0_and_one_number(self):
+        answers = [function(*handed_in(arguments)) for function, arguments in CASES if function in (rub, classes)]
+        self.assertEqual({(answer[0], len(answer)) for answer in answers}, {(0, 2), (-2, 1), (-3, 1)})
+
     def test_a_refusal_is_its_number_alone(self):
         answers = [(function, function(*handed_in(arguments))) for function, arguments in CASES]
         refusals = {(function, tuple(answer)) for function, answer in answers if answer[0] < 0}
-        expected = {(function, (-2,)) for function in (gaps, form, rub, even, spread, alike)}
+        expected = {(function, (-2,)) for function in (gaps, form, rub, even, spread, alike, classes)}
         expected |= {(function, (-3,)) for function in (gaps, form, rub, spread, alike)}
         self.assertEqual(refusals, expected)
 
@@ -121,6 +128,7 @@ class EveryCall(unittest.TestCase):
         self.assertEqual(even(n=3, k=2, m=1), [0, 0, 2])
         self.assertEqual(spread(n=4, a=[0, 2]), [1])
         self.assertEqual(alike(n=3, a=[0, 1], b=[1, 2]), [2])
+        self.assertEqual(classes(n=4, k=2), [0, 2])
 
     def test_nothing_is_printed(self):
         out, err = io.StringIO(), io.StringIO()
